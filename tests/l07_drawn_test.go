@@ -9,8 +9,12 @@ import (
 )
 
 // drawnRightProgram is right always; of its methods some four in five are accepted.
-func drawnRightProgram(seed uint64) impl.Program {
-	next := drawer(seed)
+func drawnRightProgram(seed uint64) impl.Program { return drawnBy(drawer(seed), false) }
+
+// livelyProgram also works numbers out and says them.
+func livelyProgram(seed uint64) impl.Program { return drawnBy(drawer(seed), true) }
+
+func drawnBy(next func(below int) int, lively bool) impl.Program {
 	n := 1 + next(6)
 	kind := func() int64 { return int64(next(n+1) - 1) }
 	// What a name takes and gives is the same in all classes.
@@ -41,7 +45,9 @@ func drawnRightProgram(seed uint64) impl.Program {
 	for k := range p.Classes {
 		for j := range p.Classes[k].Methods {
 			m := &p.Classes[k].Methods[j]
-			m.Code = newWriter(next, p, int64(k), *m).code()
+			w := newWriter(next, p, int64(k), *m)
+			w.lively = lively
+			m.Code = w.code()
 		}
 	}
 	return p
@@ -54,6 +60,7 @@ type writer struct {
 	class  int64
 	method impl.Method
 	base   int
+	lively bool
 	insns  []impl.Insn
 	begins []int64
 }
@@ -79,6 +86,12 @@ func (w *writer) below(class int64) int64 {
 // put writes what gives one of this kind: locals 4 and 5 are for numbers, 6 and 7 for others.
 func (w *writer) put(kind int64) {
 	if kind == impl.TyInt {
+		if w.lively && w.next(3) == 0 {
+			w.add(impl.OpLoad, int64(4+w.next(2)))
+			w.add(impl.OpPush, int64(w.next(5)-1))
+			w.add(int64(impl.OpAdd + w.next(4)))
+			return
+		}
 		switch w.next(5) {
 		case 0:
 			w.add(impl.OpLoad, int64(4+w.next(2)))
@@ -109,6 +122,13 @@ func (w *writer) put(kind int64) {
 func (w *writer) statement() {
 	w.begins = append(w.begins, int64(len(w.insns)))
 	class := int64(w.next(len(w.p.Classes)))
+	if w.lively && w.next(5) == 0 {
+		w.put(impl.TyInt)
+		w.add(impl.OpDup)
+		w.add(impl.OpSay)
+		w.add(impl.OpStore, int64(4+w.next(2)))
+		return
+	}
 	switch w.next(9) {
 	case 0:
 		w.put(impl.TyInt)
