@@ -253,34 +253,34 @@ func TestPromise10WhatIsKnownHolds(t *testing.T) {
 	}
 }
 
-// foldedProgram has all its codes FoldedAll.
-func foldedProgram(p impl.Program) impl.Program {
+// turnedProgram has all its codes turned.
+func turnedProgram(p impl.Program, turn func([]impl.Insn) []impl.Insn) impl.Program {
 	p = twin(p)
 	for k := range p.Classes {
 		for j := range p.Classes[k].Methods {
 			m := &p.Classes[k].Methods[j]
-			m.Code = impl.FoldedAll(m.Code)
+			m.Code = turn(m.Code)
 		}
 	}
 	return p
 }
 
-// checkSameHeard says whether the folded one needed fewer steps.
-func checkSameHeard(t *testing.T, p impl.Program, n int64) bool {
+// checkSameHeard says whether the turned one needed fewer steps.
+func checkSameHeard(t *testing.T, p impl.Program, turn func([]impl.Insn) []impl.Insn, n int64) bool {
 	t.Helper()
-	q := foldedProgram(p)
+	q := turnedProgram(p, turn)
 	if !impl.Sound(q) {
-		t.Fatalf("what is folded is not Sound: %s, of %s", impl.ShowProgram(q), impl.ShowProgram(p))
+		t.Fatalf("what is turned is not Sound: %s, of %s", impl.ShowProgram(q), impl.ShowProgram(p))
 	}
 	a, b := impl.Ran(p, n), impl.Ran(q, n)
 	if a.End == impl.EnRuns {
 		if len(b.Said) < len(a.Said) || !slices.Equal(b.Said[:len(a.Said)], a.Said) {
-			t.Fatalf("heard %q, folded %q, of %s", impl.Heard(a), impl.Heard(b), impl.ShowProgram(p))
+			t.Fatalf("heard %q, turned %q, of %s", impl.Heard(a), impl.Heard(b), impl.ShowProgram(p))
 		}
 		return false
 	}
 	if impl.Heard(a) != impl.Heard(b) || impl.Cost(q, n) > impl.Cost(p, n) {
-		t.Fatalf("heard %q in %d, folded %q in %d, of %s", impl.Heard(a), impl.Cost(p, n), impl.Heard(b), impl.Cost(q, n), impl.ShowProgram(p))
+		t.Fatalf("heard %q in %d, turned %q in %d, of %s", impl.Heard(a), impl.Cost(p, n), impl.Heard(b), impl.Cost(q, n), impl.ShowProgram(p))
 	}
 	return impl.Cost(q, n) < impl.Cost(p, n)
 }
@@ -289,7 +289,7 @@ func TestPromise10WhatIsFoldedIsTheSame(t *testing.T) {
 	ended, fewer, sound := map[int64]int{}, 0, 0
 	look := func(p impl.Program) {
 		for _, n := range []int64{40, 600} {
-			if checkSameHeard(t, p, n) {
+			if checkSameHeard(t, p, impl.FoldedAll, n) {
 				fewer++
 			}
 		}
@@ -316,9 +316,24 @@ func TestPromise10WhatIsFoldedIsTheSame(t *testing.T) {
 	}
 }
 
+// checkFewer runs each code that a test wrote as method 0 of class 0, beside itself turned, which needs so many steps fewer.
+func checkFewer(t *testing.T, turn func([]impl.Insn) []impl.Insn, rows map[string]int64) {
+	t.Helper()
+	for text, fewer := range rows {
+		p := coded(t, 0, 0, text)
+		q := turnedProgram(p, turn)
+		if a, b := impl.Ran(p, 500), impl.Ran(q, 500); impl.Heard(a) != impl.Heard(b) || a.End == impl.EnRuns {
+			t.Errorf("%q: heard %q, turned %q", text, impl.Heard(a), impl.Heard(b))
+		}
+		if got := impl.Cost(p, 500) - impl.Cost(q, 500); got != fewer {
+			t.Errorf("%q: %d steps fewer, want %d", text, got, fewer)
+		}
+	}
+}
+
 // Just as many steps fewer as threes are come to: of each three one is left out.
 func TestPromise10HowManyStepsFewer(t *testing.T) {
-	for text, fewer := range map[string]int64{
+	checkFewer(t, impl.FoldedAll, map[string]int64{
 		"a3 a4 d t":           1,
 		"a3 a4 d s a5 a6 d t": 2,
 		"a3 c1 b1 a4 d t":     1,
@@ -326,14 +341,5 @@ func TestPromise10HowManyStepsFewer(t *testing.T) {
 		"k4 a3 a4 d a1 t":     0,
 		"a3 c2 b2 a1 e h c2 s a3 a4 d s b2 l15 k2 a0 t": 3,
 		"a3 a0 g t": 0,
-	} {
-		p := coded(t, 0, 0, text)
-		q := foldedProgram(p)
-		if a, b := impl.Ran(p, 500), impl.Ran(q, 500); impl.Heard(a) != impl.Heard(b) || a.End == impl.EnRuns {
-			t.Errorf("%q: heard %q, folded %q", text, impl.Heard(a), impl.Heard(b))
-		}
-		if got := impl.Cost(p, 500) - impl.Cost(q, 500); got != fewer {
-			t.Errorf("%q: %d steps fewer, want %d", text, got, fewer)
-		}
-	}
+	})
 }

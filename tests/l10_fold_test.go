@@ -386,20 +386,20 @@ func TestPromise10KnownInLongCode(t *testing.T) {
 	}
 }
 
-// checkTurned asks for one code of each code that a test wrote.
-func checkTurned(t *testing.T, name string, answer func([]impl.Insn) []impl.Insn, rows map[string]string) {
+// checkTurned asks for one code of each code that a test wrote, and has all else of the chapter looked at too.
+func checkTurned(t *testing.T, name string, answer func([]impl.Insn) []impl.Insn, look func(*testing.T, []impl.Insn), rows map[string]string) {
 	t.Helper()
 	for text, want := range rows {
 		code := codeOf(t, text)
 		if got := impl.ShowCode(answer(code)); got != want {
 			t.Errorf("%s(%q) = %q, want %q", name, text, got, want)
 		}
-		checkFold(t, code)
+		look(t, code)
 	}
 }
 
 func TestPromise10Loaded(t *testing.T) {
-	checkTurned(t, "Loaded", impl.Loaded, map[string]string{
+	checkTurned(t, "Loaded", impl.Loaded, checkFold, map[string]string{
 		"t":                                 "t",
 		"b1 t":                              "b1 t",
 		"a3 c1 b1 t":                        "a3 c1 a3 t",
@@ -457,7 +457,7 @@ func TestPromise10FoldedOfAllWords(t *testing.T) {
 }
 
 func TestPromise10Folded(t *testing.T) {
-	checkTurned(t, "Folded", impl.Folded, map[string]string{
+	checkTurned(t, "Folded", impl.Folded, checkFold, map[string]string{
 		"a3 a4 d t":            "a7 k3 k3 t",
 		"a3 a4 e t":            "a-1 k3 k3 t",
 		"a3 a4 f t":            "a12 k3 k3 t",
@@ -523,7 +523,7 @@ func TestPromise10Folded(t *testing.T) {
 }
 
 func TestPromise10FoldedAll(t *testing.T) {
-	checkTurned(t, "FoldedAll", impl.FoldedAll, map[string]string{
+	checkTurned(t, "FoldedAll", impl.FoldedAll, checkFold, map[string]string{
 		"t":         "t",
 		"a3 a4 d t": "a7 k3 k3 t",
 		"a3 a0 g t": "a3 a0 g t",
@@ -623,29 +623,36 @@ func TestPromise21KnownIsNewMemory(t *testing.T) {
 	}
 }
 
-func TestPromise21FoldAnswersAreNewMemory(t *testing.T) {
+// checkNewCodes writes into each of a chapter's codes of one code, and asks whether that is to be seen in it, in those answered beside it, or in later ones.
+func checkNewCodes(t *testing.T, code []impl.Insn, answers func([]impl.Insn) [][]impl.Insn) {
+	t.Helper()
 	odd := impl.Insn{Op: 77, A: 77, B: 77}
-	for _, code := range memoryCodes(t) {
-		text := impl.ShowCode(code)
-		kept := slices.Clone(code)
-		want := foldAnswers(code)
-		for k, list := range foldAnswers(code) {
-			others := foldAnswers(code)
-			for at := range list[:cap(list)] {
-				list[:cap(list)][at] = odd
-			}
-			_ = append(list, odd, odd)
-			for j, again := range foldAnswers(code) {
-				if !slices.Equal(others[j], want[j]) || !slices.Equal(again, want[j]) || !slices.Equal(code, kept) {
-					t.Fatalf("%s(%q) = %v, and again %v, want %v, behind %s", foldNames()[j], text, others[j], again, want[j], foldNames()[k])
-				}
+	kept := slices.Clone(code)
+	var want [][]impl.Insn
+	for _, list := range answers(code) {
+		want = append(want, slices.Clone(list))
+	}
+	for k := range want {
+		first, others := answers(code), answers(code)
+		list := first[k]
+		for at := range list[:cap(list)] {
+			list[:cap(list)][at] = odd
+		}
+		_ = append(list, odd, odd)
+		for j, again := range answers(code) {
+			if j != k && !slices.Equal(first[j], want[j]) || !slices.Equal(others[j], want[j]) || !slices.Equal(again, want[j]) || !slices.Equal(code, kept) {
+				t.Fatalf("answer %d of %v = %v, and again %v, want %v, behind answer %d", j, kept, others[j], again, want[j], k)
 			}
 		}
 	}
-	for _, code := range [][]impl.Insn{nil, {}, {odd}} {
-		for _, list := range foldAnswers(code) {
-			_ = append(list, odd, odd, odd)
-		}
+}
+
+func TestPromise21FoldAnswersAreNewMemory(t *testing.T) {
+	for _, code := range memoryCodes(t) {
+		checkNewCodes(t, code, foldAnswers)
+	}
+	for _, code := range [][]impl.Insn{nil, {}, {{Op: 77, A: 77, B: 77}}} {
+		checkNewCodes(t, code, foldAnswers)
 		_ = append(impl.Known(code), []int64{1}, []int64{2})
 		if b := foldAnswers(code); len(impl.Known(code))+len(b[0])+len(b[1])+len(b[2]) != 0 {
 			t.Errorf("of %v again: %v", code, b)
