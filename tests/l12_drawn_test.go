@@ -51,10 +51,10 @@ func (all *turned) look(code []impl.Insn) {
 		if end != i.A && code[end].Op != impl.OpJump {
 			all.chained++
 		}
-		if end == i.A && code[end].Op == impl.OpJump {
+		if inRound(code, i.A) {
 			all.rounds++
 		}
-		if end != i.A && code[end].Op == impl.OpJump {
+		if code[end].Op == impl.OpJump && !inRound(code, i.A) {
 			all.led++
 		}
 		if i.Op == impl.OpZero && threaded[at].Op == impl.OpPop {

@@ -8,7 +8,7 @@ import (
 	"loop.example/g00334/impl"
 )
 
-// endUpTold keeps the whole way, and looks there for each one that comes next.
+// endUpTold keeps the whole way, and looks there for each one that comes next: the first one of the way is it where that goes round.
 func endUpTold(code []impl.Insn, at int64) int64 {
 	if at < 0 || at >= int64(len(code)) {
 		return -1
@@ -17,11 +17,25 @@ func endUpTold(code []impl.Insn, at int64) int64 {
 	for code[at].Op == impl.OpJump {
 		at = code[at].A
 		if slices.Contains(way, at) {
-			break
+			return way[0]
 		}
 		way = append(way, at)
 	}
 	return at
+}
+
+// inRound tells whether one comes to at again by OpJumps alone; what only leads into a round does not.
+func inRound(code []impl.Insn, at int64) bool {
+	to := at
+	for range code {
+		if code[to].Op != impl.OpJump {
+			return false
+		}
+		if to = code[to].A; to == at {
+			return true
+		}
+	}
+	return false
 }
 
 // threadedTold goes through the code twice, as the chapter does.
@@ -175,26 +189,79 @@ func TestPromise12EndUp(t *testing.T) {
 
 func TestPromise12EndUpWhereItGoesRound(t *testing.T) {
 	checkEnds(t, []endCase{
-		// To itself, asked there and ahead of it.
+		// To itself.
 		{"k0", "0"},
 		{"s k1", "0 1"},
-		{"k1 k1", "1 1"},
-		{"k0 k0 k1", "0 0 0"},
-		{"k1 k2 k2 t", "2 2 2 3"},
+		{"s k1 k2 t", "0 1 2 3"},
 		// Several: each of them comes to itself again.
 		{"k1 k0", "0 1"},
 		{"k1 k2 k0", "0 1 2"},
 		{"k2 k0 k1", "0 1 2"},
 		{"k2 s k4 s k0", "0 1 2 3 4"},
-		// Those that lead into it come to where they come into it.
-		{"k1 k2 k1", "1 1 2"},
-		{"k2 k2 k1", "2 1 2"},
-		{"k3 k0 k1 k4 k5 k3", "3 3 3 3 4 5"},
-		{"k1 k2 k3 k1 k3", "1 1 2 3 3"},
-		{"k1 k2 k3 k1 k3 k4 k2 k6", "1 1 2 3 3 3 2 2"},
 		// Two rounds beside each other.
-		{"k1 k0 k3 k2 k0 k3", "0 1 2 3 0 3"},
+		{"k1 k0 k3 k2", "0 1 2 3"},
+		{"k2 k3 k0 k1 t", "0 1 2 3 4"},
 	})
+}
+
+// What leads into a round comes to itself, too, though it is not in it.
+func TestPromise21EndUpOfWhatLeadsIntoARound(t *testing.T) {
+	checkEnds(t, []endCase{
+		// A round of one, on and back.
+		{"k1 k1", "0 1"},
+		{"k0 k0", "0 1"},
+		{"k2 s k2", "0 1 2"},
+		{"k0 s k0 t", "0 1 2 3"},
+		{"k1 k1 k1 k1", "0 1 2 3"},
+		// The same, through several.
+		{"k1 k2 k2 t", "0 1 2 3"},
+		{"k0 k0 k1", "0 1 2"},
+		{"k1 k2 k3 k4 k4", "0 1 2 3 4"},
+		{"k0 k0 k1 k2 k3", "0 1 2 3 4"},
+		{"k3 k4 k2 k1 k2", "0 1 2 3 4"},
+		// A round of several, come into at each of them.
+		{"k1 k2 k1", "0 1 2"},
+		{"k2 k2 k1", "0 1 2"},
+		{"k1 k2 k3 k1", "0 1 2 3"},
+		{"k2 k2 k3 k1", "0 1 2 3"},
+		{"k3 k2 k3 k1", "0 1 2 3"},
+		{"k1 k0 k0 k1", "0 1 2 3"},
+		// The same, through several.
+		{"k1 k2 k3 k2", "0 1 2 3"},
+		{"k3 k0 k1 k4 k5 k3", "0 1 2 3 4 5"},
+		{"k1 k2 k3 k1 k3", "0 1 2 3 4"},
+		{"k1 k2 k3 k1 k3 k4 k2 k6", "0 1 2 3 4 5 6 7"},
+		{"k2 s k4 s k6 s k4", "0 1 2 3 4 5 6"},
+		// Two rounds beside each other, and a way that ends beside one.
+		{"k1 k0 k3 k2 k0 k3", "0 1 2 3 4 5"},
+		{"k1 k1 k4 k5 k5 t", "0 1 5 5 5 5"},
+		{"k3 k4 k0 t k4 k1", "3 1 3 3 4 5"},
+		// OpZero is no way into a round: one ends up at it.
+		{"k1 l2 k2", "1 1 2"},
+		{"k1 l3 k1 k3", "1 1 1 3"},
+	})
+}
+
+// A round of each size is at the end of the longest code, and all ahead of it lead in one row into it, at each of its places.
+func TestPromise21EndUpOfTheLongestWaysIntoARound(t *testing.T) {
+	for start := range int64(40) {
+		for into := start; into < 40; into++ {
+			var code []impl.Insn
+			for at := range int64(40) {
+				code = append(code, impl.Insn{Op: impl.OpJump, A: at + 1})
+			}
+			code[39].A = start
+			if start > 0 {
+				code[start-1].A = into
+			}
+			for at := range int64(40) {
+				if got := impl.EndUp(code, at); got != at || inRound(code, at) != (at >= start) {
+					t.Fatalf("EndUp(%q, %d) = %d, want %d", impl.ShowCode(code), at, got, at)
+				}
+			}
+			checkThread(t, code)
+		}
+	}
 }
 
 // All steps but one are OpJumps, to the next one, to the one ahead, or round.
@@ -274,29 +341,69 @@ func TestPromise12Threaded(t *testing.T) {
 		"s k0 k1 k2":          "s k0 k0 k0",
 		"s l5 t k0 k3 k4":     "s l0 t k0 k0 k0",
 		"k2 k2 b1 l5 k6 k6 t": "k2 k2 b1 l6 k6 k6 t",
-		// To a round, of one and of several, and to what leads into one.
-		"k0":               "k0",
-		"l1 k1 t":          "i k1 t",
-		"l2 t k2":          "l2 t k2",
-		"k2 t k2":          "k2 t k2",
-		"l2 t k3 k2":       "l2 t k3 k2",
-		"l3 t k3 k2":       "l3 t k3 k2",
-		"l4 t k3 k2 k2":    "l2 t k3 k2 k2",
-		"k4 t k3 k2 k2":    "k2 t k3 k2 k2",
-		"l4 t k3 k2 k5 k3": "l3 t k3 k2 k3 k3",
-		"k1 k2 k1":         "k1 k2 k1",
-		"k1 k2 k3 k1":      "k1 k2 k3 k1",
+		// To a round, of one and of several.
+		"k0":          "k0",
+		"l1 k1 t":     "i k1 t",
+		"l2 t k2":     "l2 t k2",
+		"k2 t k2":     "k2 t k2",
+		"l2 t k3 k2":  "l2 t k3 k2",
+		"l3 t k3 k2":  "l3 t k3 k2",
+		"k1 k2 k1":    "k1 k2 k1",
+		"k1 k2 k3 k1": "k1 k2 k3 k1",
 		// It is not reached.
 		"t k3 s k5 s t": "t k5 s k5 s t",
 		"t l3 s k5 s t": "t l5 s k5 s t",
 		// The longest code.
-		"l38" + steps(37, "s") + " k39 t":    "l39" + steps(37, "s") + " k39 t",
-		"s" + steps(37, "s") + " k0 l38":     "s" + steps(37, "s") + " k0 l0",
-		"k39" + steps(38, "k39") + " k1":     "k39" + steps(38, "k39") + " k1",
-		"l39" + steps(38, "s") + " k38":      "l38" + steps(38, "s") + " k38",
-		"l39 t" + steps(37, "s") + " k1":     "i t" + steps(37, "s") + " k1",
-		"s" + steps(37, "s") + " l39 t":      "s" + steps(37, "s") + " i t",
-		"k1 k2 k3" + steps(36, "k39") + " t": "k39 k39 k39" + steps(36, "k39") + " t",
+		"l38" + steps(37, "s") + " k39 t":      "l39" + steps(37, "s") + " k39 t",
+		"s" + steps(37, "s") + " k0 l38":       "s" + steps(37, "s") + " k0 l0",
+		"k39" + steps(38, "k39") + " k1":       "k39" + steps(38, "k39") + " k1",
+		"l39" + steps(38, "s") + " k38":        "l38" + steps(38, "s") + " k38",
+		"l38" + steps(37, "s") + " k39 k39":    "l38" + steps(37, "s") + " k39 k39",
+		"k1 k2 k3" + steps(36, "k39") + " k39": "k1 k2 k3" + steps(36, "k39") + " k39",
+		"l39 t" + steps(37, "s") + " k1":       "i t" + steps(37, "s") + " k1",
+		"s" + steps(37, "s") + " l39 t":        "s" + steps(37, "s") + " i t",
+		"k1 k2 k3" + steps(36, "k39") + " t":   "k39 k39 k39" + steps(36, "k39") + " t",
+	})
+}
+
+// A jump to what leads into a round stays; one by OpJumps that end up elsewhere, beside it, does not.
+func TestPromise21ThreadedOfWhatLeadsIntoARound(t *testing.T) {
+	checkTurned(t, "Threaded", impl.Threaded, checkThread, map[string]string{
+		// A round of one, by one and by several.
+		"k1 k1":             "k1 k1",
+		"k1 k2 k2":          "k1 k2 k2",
+		"l2 t k3 k3":        "l2 t k3 k3",
+		"l2 t k3 k4 k4":     "l2 t k3 k4 k4",
+		"s l4 t k3 k3":      "s l4 t k3 k3",
+		"k0 k0 k1 l2":       "k0 k0 k1 l2",
+		"a0 l3 k4 k5 m k5":  "a0 l3 k4 k5 m k5",
+		"a0 l5 k4 k3 m k3":  "a0 l5 k4 k3 m k3",
+		"k1 k2 k3 k4 k5 k5": "k1 k2 k3 k4 k5 k5",
+		// A round of several, at each of them, by one and by several.
+		"l4 t k3 k2 k2":    "l4 t k3 k2 k2",
+		"l4 t k3 k2 k3":    "l4 t k3 k2 k3",
+		"k4 t k3 k2 k2":    "k4 t k3 k2 k2",
+		"l4 t k3 k2 k5 k3": "l4 t k3 k2 k5 k3",
+		"k4 t k3 k2 k5 k3": "k4 t k3 k2 k5 k3",
+		"k1 k2 k3 k2":      "k1 k2 k3 k2",
+		// OpZero to the next one, which leads into a round, behind it or ahead of it.
+		"l1 k2 k2":    "i k2 k2",
+		"l1 k2 k3 k3": "i k2 k3 k3",
+		"l1 k2 k3 k2": "i k2 k3 k2",
+		"k0 l2 k0":    "k0 i k0",
+		// It goes to another one that leads to the next one: that is not where it ends up.
+		"l2 k1 k1":    "l2 k1 k1",
+		"l3 k2 k1 k1": "l3 k2 k1 k1",
+		"l3 k2 k1 k2": "l3 k2 k1 k2",
+		// Others are threaded beside it.
+		"l3 l4 t k3 k5 k2":    "l3 i t k3 k2 k2",
+		"k1 k1 l4 t k5 k3":    "k1 k1 i t k3 k3",
+		"l2 t k3 k3 k5 k1 l4": "l2 t k3 k3 k1 k1 l1",
+		"k1 l3 t k4 k4 k0":    "k1 l3 t k4 k4 k1",
+		// It is not reached.
+		"t k2 k2":      "t k2 k2",
+		"t l2 k3 k3":   "t i k3 k3",
+		"t l3 t k4 k4": "t l3 t k4 k4",
 	})
 }
 
@@ -320,11 +427,9 @@ func TestPromise12ThreadedOfOpZeroToTheNextOne(t *testing.T) {
 		"l1 k0":     "l0 k0",
 		"s l2 k0 t": "s l0 k0 t",
 		// The next one is OpJump, of a round: there it ends up.
-		"l1 k1":       "i k1",
-		"l1 k2 k1":    "i k2 k1",
-		"l2 k2 k1":    "l2 k2 k1",
-		"l3 k2 k1 k1": "i k2 k1 k1",
-		"l3 k2 k1 k2": "l2 k2 k1 k2",
+		"l1 k1":    "i k1",
+		"l1 k2 k1": "i k2 k1",
+		"l2 k2 k1": "l2 k2 k1",
 		// An OpJump to the next one stays what it is.
 		"k1 t":    "k1 t",
 		"k2 t k1": "k1 t k1",
@@ -507,6 +612,43 @@ func TestPromise12Tidied(t *testing.T) {
 		"l38" + steps(37, "s") + " k39 t":     "l38" + steps(37, "s") + " t",
 		"l38 k39" + steps(36, "s") + " k39 t": "i t",
 		"s" + steps(38, "s") + " k0":          "s" + steps(38, "s") + " k0",
+	})
+}
+
+// What leads into a round goes only where it is not reached, or goes to the next one.
+func TestPromise21TidiedOfWhatLeadsIntoARound(t *testing.T) {
+	checkTurned(t, "Tidied", impl.Tidied, checkThread, map[string]string{
+		// A round of one, by one and by several.
+		"a0 l3 k4 k5 m k5":          "a0 l3 k4 k5 m k5",
+		"a0 l5 k4 k3 m k3":          "a0 l5 k4 k3 m k3",
+		"a0 l3 t k5 s k5":           "a0 l3 t k3",
+		"a0 l4 a1 t k6 s k6":        "a0 l4 a1 t k4",
+		"a0 l6 k4 k3 m k3 k5":       "a0 l6 k4 k3 m k3 k5",
+		"a0 l4 s k3 k6 t k3":        "a0 l4 s k3 k3",
+		"a0 l4 s k3 k6 t k5":        "a0 l4 s k3 t",
+		"a0 l3 a1 t k7 k4 m m k7 s": "a0 l3 a1 t",
+		// A round of several, at each of them.
+		"a0 l6 k4 k5 m k3 k3":    "a0 l6 k4 k5 m k3 k3",
+		"a0 l6 k4 k5 m k3 k5":    "a0 l6 k4 k5 m k3 k5",
+		"a0 l7 k4 k5 m k3 k5 k6": "a0 l7 k4 k5 m k3 k5 k6",
+		// It becomes one of one.
+		"a0 l6 a1 t k5 k4 k4": "a0 l5 a1 t k4 k4",
+		"a0 l6 a1 t k5 k4 k5": "a0 l5 a1 t k4 k4",
+		// All goes to the next one, or what is between is not reached.
+		"k1 k1":          "k0",
+		"k1 k2 k2":       "k0",
+		"k1 k2 k3 k2":    "k0",
+		"k1 k2 k3 k4 k4": "k0",
+		"k2 s k4 s k4":   "k0",
+		"k3 s k3 k3":     "k0",
+		"s k3 s k3":      "s k1",
+		// It is not reached.
+		"t k2 k2":       "t",
+		"s t k3 k4 k3":  "s t",
+		"a1 t l4 k4 k4": "a1 t",
+		// The longest code.
+		"l38" + steps(37, "s") + " k39 k39":    "l38" + steps(37, "s") + " k38",
+		"k1 k2 k3" + steps(36, "k39") + " k39": "k0",
 	})
 }
 
