@@ -33,8 +33,8 @@ func drawnNumbers(next func(int) int, p impl.Program) []int64 {
 
 // A harvest counts what was met with.
 type harvest struct {
-	programs, sound, without, classesGone, moved, methodsGone, idle, written, brought int
-	ended                                                                             map[int64]int
+	programs, sound, without, classesGone, moved, methodsGone, idle, written, brought, asked int
+	ended                                                                                    map[int64]int
 }
 
 // check shrinks a program with nothing kept, with all, and with what is drawn.
@@ -56,6 +56,8 @@ func (all *harvest) check(t *testing.T, p impl.Program, next func(int) int) {
 		got, told := checkShrunk(t, p, c[0], c[1])
 		all.count(p, got, told)
 		all.brought += len(keptTogether(p, c[0])) - len(c[0])
+		// These stay only because what goes is asked, too.
+		all.asked += len(got.Classes) - len(stayTold(told.less, c[0]))
 	}
 	all.ended[impl.Ran(p, 400).End]++
 }
@@ -87,6 +89,7 @@ func (all *harvest) checkEnough(t *testing.T, least harvest) {
 		"programs": {all.programs, least.programs}, "Sound ones": {all.sound, least.sound}, "methods left out": {all.without, least.without},
 		"classes gone": {all.classesGone, least.classesGone}, "classes with lesser numbers": {all.moved, least.moved}, "methods gone": {all.methodsGone, least.methodsGone},
 		"methods kept that are not reached": {all.idle, least.idle}, "steps that are not as they were": {all.written, least.written}, "classes brought by others": {all.brought, least.brought},
+		"classes that only methods name that go": {all.asked, least.asked},
 	} {
 		if counts[0] < counts[1] {
 			t.Errorf("only %d %s", counts[0], what)
@@ -107,7 +110,7 @@ func TestPromise16WhatIsShrunkIsTheSame(t *testing.T) {
 			all.check(t, p, next)
 		}
 	}
-	all.checkEnough(t, harvest{programs: 1000, sound: 80, without: 2000, classesGone: 1000, moved: 500, methodsGone: 10000, idle: 5000, written: 2000, brought: 1500,
+	all.checkEnough(t, harvest{programs: 1000, sound: 80, without: 2000, classesGone: 1000, moved: 500, methodsGone: 10000, idle: 5000, written: 2000, brought: 1500, asked: 60,
 		ended: map[int64]int{impl.EnRuns: 30, impl.EnGave: 100, impl.EnZero: 8, impl.EnNull: 30, impl.EnFull: 10, impl.EnStuck: 300}})
 }
 
@@ -119,7 +122,7 @@ func TestPromise16WhatIsSoundStaysSound(t *testing.T) {
 			all.check(t, p, next)
 		}
 	}
-	all.checkEnough(t, harvest{programs: 1200, sound: 1000, without: 3000, classesGone: 1000, moved: 500, methodsGone: 3000, idle: 2000, written: 1000, brought: 1000,
+	all.checkEnough(t, harvest{programs: 1200, sound: 1000, without: 3000, classesGone: 1000, moved: 500, methodsGone: 3000, idle: 2000, written: 1000, brought: 1000, asked: 400,
 		ended: map[int64]int{impl.EnGave: 300, impl.EnDeep: 20, impl.EnNull: 20}})
 }
 

@@ -106,7 +106,7 @@ func placesOf(p impl.Program, stay []int64) []int64 {
 
 // A shrink is what the chapter tells of one program, and what is kept of it.
 type shrink struct {
-	// less has the methods that stay, and all classes.
+	// less has the methods that stay, and all classes: also what goes is asked which classes stay.
 	less    impl.Program
 	live    numberSet
 	numbers []int64
@@ -119,7 +119,7 @@ func shrinkOf(p impl.Program, classes []int64, names []int64) shrink {
 		stay[n] = live[n] || slices.Contains(classes, n/20) && slices.Contains(names, n%20)
 	}
 	less := onlyTold(p, stay)
-	return shrink{less, live, placesOf(p, stayTold(less, classes))}
+	return shrink{less, live, placesOf(p, stayTold(p, classes))}
 }
 
 func (s shrink) number(class int64) int64 {
@@ -211,13 +211,8 @@ func checkShrunk(t *testing.T, p impl.Program, classes []int64, names []int64) (
 		t.Fatalf("Shrunk(%v, %v) = %s is not Sound, of %s", classes, names, impl.ShowProgram(got), impl.ShowProgram(p))
 	}
 	checkShrunkBulk(t, p, got, told)
-	var again []int64
-	for _, k := range classes {
-		again = append(again, told.number(k))
-	}
-	if twice := impl.Shrunk(got, again, names); !sameProgram(twice, got) {
-		t.Fatalf("Shrunk again = %s, once %s", impl.ShowProgram(twice), impl.ShowProgram(got))
-	}
+	checkByNewNumbers(t, p, got, classes)
+	checkShrunkAgain(t, got, told, classes, names)
 	for _, n := range []int64{0, 1, 7, 60, 400} {
 		a, b := impl.Ran(p, n), impl.Ran(got, n)
 		if impl.Heard(a) != impl.Heard(b) || impl.Cost(p, n) != impl.Cost(got, n) {
@@ -228,6 +223,63 @@ func checkShrunk(t *testing.T, p impl.Program, classes []int64, names []int64) (
 		}
 	}
 	return got, told
+}
+
+// checkByNewNumbers asks NewNumbers itself which classes stay, and looks for what they name by these numbers.
+func checkByNewNumbers(t *testing.T, p impl.Program, got impl.Program, classes []int64) {
+	t.Helper()
+	numbers, stay := impl.NewNumbers(p, classes), int64(0)
+	number := func(class int64) int64 {
+		if class < 0 {
+			return class
+		}
+		return numbers[class]
+	}
+	for k, c := range p.Classes {
+		if numbers[k] < 0 {
+			continue
+		}
+		if numbers[k] != stay || stay >= int64(len(got.Classes)) {
+			t.Fatalf("NewNumbers(%v) = %v, Shrunk %s, of %s", classes, numbers, impl.ShowProgram(got), impl.ShowProgram(p))
+		}
+		one := got.Classes[stay]
+		stay++
+		right := one.Super == number(c.Super) && len(one.Fields) == len(c.Fields) && len(one.Methods) <= len(c.Methods)
+		for f := range c.Fields {
+			right = right && one.Fields[f] == number(c.Fields[f])
+		}
+		for _, m := range one.Methods {
+			from := slices.IndexFunc(c.Methods, func(other impl.Method) bool { return other.Name == m.Name })
+			right = right && from >= 0 && m.Gives == number(c.Methods[from].Gives) && len(m.Args) == len(c.Methods[from].Args)
+			for a := 0; right && a < len(m.Args); a++ {
+				right = m.Args[a] == number(c.Methods[from].Args[a])
+			}
+		}
+		if !right {
+			t.Fatalf("Shrunk has %v for class %d, by NewNumbers(%v) = %v, of %s", one, k, classes, numbers, impl.ShowProgram(p))
+		}
+	}
+	if needed := impl.Needed(p); len(classes) == 0 && len(got.Classes) != len(needed) {
+		t.Fatalf("of no classes Shrunk has %d, Needed are %v, of %s", len(got.Classes), needed, impl.ShowProgram(p))
+	}
+	if stay != int64(len(got.Classes)) {
+		t.Fatalf("%d classes have a number, %d are left: NewNumbers(%v) = %v, of %s", stay, len(got.Classes), classes, numbers, impl.ShowProgram(p))
+	}
+}
+
+// checkShrunkAgain holds that nothing goes where all that was left is kept; where it is not, what only methods named that are gone by now goes, too.
+func checkShrunkAgain(t *testing.T, got impl.Program, told shrink, classes []int64, names []int64) {
+	t.Helper()
+	if twice := impl.Shrunk(got, numbersBelow(int64(len(got.Classes))), names); !sameProgram(twice, got) {
+		t.Fatalf("Shrunk again, all kept = %s, once %s", impl.ShowProgram(twice), impl.ShowProgram(got))
+	}
+	var again []int64
+	for _, k := range classes {
+		again = append(again, told.number(k))
+	}
+	if twice, want := impl.Shrunk(got, again, names), shrinkOf(got, again, names).program(); !sameProgram(twice, want) {
+		t.Fatalf("Shrunk again = %s, want %s, once %s", impl.ShowProgram(twice), impl.ShowProgram(want), impl.ShowProgram(got))
+	}
 }
 
 // checkShrunkBulk allows one step more only of a method that is kept, is not reached, and had a single one.
@@ -771,26 +823,66 @@ func TestPromise16ShrunkToNothingDone(t *testing.T) {
 	}
 }
 
-// Which classes stay is asked of what is left: what only the Args, Gives and codes of a method that goes name, goes too.
-func TestPromise16ShrunkAsksWhatIsLeft(t *testing.T) {
+// Which classes stay is asked of the whole: what the Args and Gives of a method name that goes stays, too.
+func TestPromise16ShrunkAsksTheWhole(t *testing.T) {
 	chain := func() []impl.Class {
 		return []impl.Class{opening("a0 t", asks(5, "m t", 5)), alone(asks(7, "m t", 2), asks(8, "a0 t", impl.TyInt, 3)), holding(-1, 4), alone(), alone(asks(7, "m t", 5)), alone()}
 	}
-	zero := "-1 0 1 0 0 -1 2\na0 t\n"
+	zero, none := "-1 0 1 0 0 -1 2\na0 t\n", "-1 0 0\n"
+	behind := "-1 1 4 0\n" + none + none + none
 	checkShrinkCases(t, []shrinkCase{
-		{"no names", chain(), "1", "", zero + "-1 0 0\n"},
-		{"another name", chain(), "1", "9", zero + "-1 0 0\n"},
-		{"the name that gives", chain(), "1", "7", zero + "-1 0 1 7 0 2 2\nm t\n-1 1 3 0\n-1 0 0\n"},
-		{"the name that takes", chain(), "1", "8", zero + "-1 0 1 8 1 2 -1 2\na0 t\n-1 0 0\n"},
-		{"both names", chain(), "1", "7 8", zero + "-1 0 2 7 0 2 2 8 1 3 -1 2\nm t\na0 t\n-1 1 4 0\n-1 0 0\n-1 0 0\n"},
-		{"the class that is brought is among the classes, too", chain(), "1 4", "7", zero + "-1 0 1 7 0 2 2\nm t\n-1 1 3 0\n-1 0 1 7 0 4 2\nm t\n-1 0 0\n"},
-		{"class 0 is kept, its other name is not", chain(), "0", "0", zero},
-		{"class 0 is kept, and its other name", chain(), "0", "5", "-1 0 2 0 0 -1 2 5 0 1 2\na0 t\nm t\n-1 0 0\n"},
+		{"no names", chain(), "1", "", zero + none + behind},
+		{"another name", chain(), "1", "9", zero + none + behind},
+		{"the name that gives", chain(), "1", "7", zero + "-1 0 1 7 0 2 2\nm t\n" + behind},
+		{"the name that takes", chain(), "1", "8", zero + "-1 0 1 8 1 3 -1 2\na0 t\n" + behind},
+		{"both names", chain(), "1", "7 8", zero + "-1 0 2 7 0 2 2 8 1 3 -1 2\nm t\na0 t\n" + behind},
+		{"the class that is brought is among the classes, too", chain(), "1 4", "7", zero + "-1 0 1 7 0 2 2\nm t\n-1 1 4 0\n-1 0 0\n-1 0 1 7 0 5 2\nm t\n-1 0 0\n"},
+		{"the class that is brought alone", chain(), "4", "", zero + none + none},
+		{"the class ahead of it", chain(), "2", "7", zero + "-1 1 2 0\n" + none + none},
+		{"the last one names none", chain(), "5", "7", zero + none},
+		{"class 0 is kept, its other name is not", chain(), "0", "0", zero + none},
+		{"class 0 is kept, and its other name", chain(), "0", "5", "-1 0 2 0 0 -1 2 5 0 1 2\na0 t\nm t\n" + none},
+		{"no classes", chain(), "", "", zero},
+		{"no classes, all names", chain(), "", "0 5 7 8", zero},
 	})
 	p := impl.Program{Classes: chain()}
-	if got := impl.NewNumbers(p, []int64{1}); !slices.Equal(got, numbersIn("0 1 2 3 4 5")) {
-		t.Errorf("NewNumbers of the whole = %v", got)
+	for keep, want := range map[string]string{"": "0 -1 -1 -1 -1 -1", "0": "0 -1 -1 -1 -1 1", "1": "0 1 2 3 4 5", "2": "0 -1 1 -1 2 3", "4": "0 -1 -1 -1 1 2", "5": "0 -1 -1 -1 -1 1"} {
+		if got := impl.NewNumbers(p, numbersIn(keep)); !slices.Equal(got, numbersIn(want)) {
+			t.Errorf("NewNumbers(%s) = %v, want %s", keep, got, want)
+		}
 	}
+}
+
+// What a method names that goes brings others as all that is kept does: by Super and Fields, and by methods, which go themselves.
+func TestPromise16ShrunkBringsByWhatGoes(t *testing.T) {
+	zero, none := "-1 0 1 0 0 -1 2\na0 t\n", "-1 0 0\n"
+	one := func(m ...impl.Method) []impl.Class {
+		return []impl.Class{opening("a0 t"), alone(), alone(m...), below(1), {Super: 3, Fields: []int64{impl.TyInt, 5}}, alone(does(7, "a7 t"))}
+	}
+	gives, takes := asks(2, "m t", 4), asks(2, "a0 t", impl.TyInt, impl.TyInt, 0, 4)
+	all := zero + none + none + "1 0 0\n3 2 -1 5 0\n" + none
+	called := func(m impl.Method) []impl.Class {
+		return []impl.Class{opening("n2 q2,7 t"), alone(), alone(m, does(7, "a7 t")), alone(), alone()}
+	}
+	made := "-1 0 1 0 0 -1 3\nn1 q1,7 t\n-1 0 1 7 0 -1 2\na7 t\n"
+	checkShrinkCases(t, []shrinkCase{
+		{"by Super and Fields of what it gives", one(gives), "2", "", all},
+		{"by Super and Fields of what it takes", one(takes), "2", "", all},
+		{"by its last method", one(does(3, "a0 t"), does(4, "a0 t"), does(5, "a0 t"), asks(19, "m t", 4)), "2", "", all},
+		{"the method stays", one(gives), "2", "2", zero + none + "-1 0 1 2 0 4 2\nm t\n1 0 0\n3 2 -1 5 0\n" + none},
+		{"its name alone is kept", one(gives), "", "2", zero},
+		{"one that it brings is kept", one(gives), "3", "2", zero + none + "1 0 0\n"},
+		{"another class is kept", one(takes), "5", "2", zero + none},
+		{"it gives its own class", one(asks(2, "m t", 2)), "2", "", zero + none},
+		{"its code brings none", one(does(2, "n4 q5,7 o4,0 t")), "2", "", zero + none},
+		{"a class above brings by a method that goes", []impl.Class{opening("a0 t"), alone(asks(2, "m t", 4)), below(1), alone(), alone()}, "2", "2", zero + none + "1 0 0\n" + none},
+		{"a class in a field brings by a method that goes", []impl.Class{opening("a0 t"), alone(takes), holding(-1, 1), alone(), alone()}, "2", "2", zero + none + "-1 1 1 0\n" + none},
+		{"one method that goes names a class, whose method that goes names the next", []impl.Class{opening("a0 t"), alone(asks(2, "m t", 2)), alone(asks(3, "a0 t", impl.TyInt, 4)), alone(), alone(asks(4, "m t", 5)), alone()}, "1", "", zero + none + none + none + none},
+		{"round and round", []impl.Class{opening("a0 t"), alone(asks(2, "m t", 3)), alone(), alone(asks(2, "m t", 1))}, "3", "", zero + none + none},
+		{"what is Needed brings none by a method that goes", called(asks(2, "m t", 4)), "", "2", made},
+		{"what is Needed and kept brings by a method that goes", called(asks(2, "m t", 4)), "2", "", made + none},
+		{"what is Needed is brought by another one", append(called(asks(2, "m t", 4)), holding(-1, 2)), "5", "", made + none + "-1 1 1 0\n"},
+	})
 }
 
 // What is Shrunk calls, makes and looks into what it did, under other numbers.
